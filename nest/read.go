@@ -6,36 +6,30 @@ import (
 
 // ReadForm reads a form; the int is where a text is wrong.
 func ReadForm(text string) (api.Form, int, api.Errno) {
-	if len(text) > api.MaxText {
-		return api.Form{}, 0, api.ErrLarge
-	}
-	r := newReader(text)
-	f := r.form()
-	r.end()
-	if at, e := r.result(); e != api.OK {
-		return api.Form{}, at, e
-	}
-	if e := CheckForm(f); e != api.OK {
-		return api.Form{}, 0, e
-	}
-	return f, 0, api.OK
+	return readWhole(text, (*reader).form, CheckForm)
 }
 
 // Read reads a program; the int is where a text is wrong.
 func Read(text string) (api.Program, int, api.Errno) {
+	return readWhole(text, (*reader).program, Check)
+}
+
+// readWhole reads a text that is one thing, and checks this.
+func readWhole[T any](text string, part func(*reader) T, check func(T) api.Errno) (T, int, api.Errno) {
+	var none T
 	if len(text) > api.MaxText {
-		return api.Program{}, 0, api.ErrLarge
+		return none, 0, api.ErrLarge
 	}
 	r := newReader(text)
-	p := r.program()
+	x := part(r)
 	r.end()
-	if at, e := r.result(); e != api.OK {
-		return api.Program{}, at, e
+	if r.failed {
+		return none, r.wrong, api.ErrSyntax
 	}
-	if e := Check(p); e != api.OK {
-		return api.Program{}, 0, e
+	if e := check(x); e != api.OK {
+		return none, 0, e
 	}
-	return p, 0, api.OK
+	return x, 0, api.OK
 }
 
 func (r *reader) program() api.Program {

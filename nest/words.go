@@ -3,8 +3,6 @@ package nest
 import (
 	"strconv"
 	"strings"
-
-	"warpbeam/api"
 )
 
 // maxDigits is how many digits the word of a number has at most.
@@ -97,14 +95,6 @@ func (r *reader) end() {
 	if r.kind != wordEnd {
 		r.fail()
 	}
-}
-
-// result is the offset for an error of the text, and this error.
-func (r *reader) result() (int, api.Errno) {
-	if r.failed {
-		return r.wrong, api.ErrSyntax
-	}
-	return 0, api.OK
 }
 
 // firstWord is the longest word at the beginning of a string, and its length.
