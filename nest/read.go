@@ -132,9 +132,9 @@ func (r *reader) bound() api.Bound {
 	return b
 }
 
-// divisor reads a number that is not 1, as a bound that is divided by 1 is written without it.
+// divisor reads a number above 1, as only by such a one a bound is written as divided. How great it can be is up to the checks.
 func (r *reader) divisor() int {
-	if r.kind == wordNumber && r.word() == "1" {
+	if r.kind == wordNumber && (r.word() == "0" || r.word() == "1") {
 		r.fail()
 	}
 	return r.number()

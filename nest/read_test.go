@@ -131,7 +131,9 @@ func wrongTexts() []string {
 		"for i = 0 .. 1 ^}", "for i = 0 .. 1 ^;", "for i = 0 .. 1 {^", "for i = 0 .. 1 { ^)", "for i = 0 .. 1 { } ^}", "for i = 0 .. 1 { ^array a[2]; }",
 		// Bounds.
 		"for i = ^min(0, 1) .. 1 { }", "for i = 0 .. ^max(0, 1) { }", "for i = max(0^) .. 1 { }", "for i = 0 .. min(1^) { }", "for i = max ^0 .. 1 { }", "for i = max(^, 1)", "for i = max(0, ^)", "for i = max(0, 1 ^.. 1 { }", "for i = max(0, ^max(1, 2)) .. 1 { }", "for i = max(0, 1 ^2)", "for i = max(0, 1, ^) .. 1 { }",
-		"for i = (0)/^1 .. 1 { }", "for i = 0 .. (1)/^1 { }", "for i = max(0, (0)/^1) .. 1 { }", "for i = (0) ^.. 1 { }", "for i = (0^/2 .. 1 { }", "for i = ^/2 .. 1 { }", "for i = 0^/2 .. 1 { }", "for i = (0)/^-2 .. 1 { }", "for i = (0)/^j .. 1 { }",
+		"for i = (0)/^1 .. 1 { }", "for i = 0 .. (1)/^1 { }", "for i = max(0, (0)/^1) .. 1 { }",
+		"for i = (0)/^0 .. 1 { }", "for i = 0 .. (1)/^0 { }", "for i = 0 .. min(2, (1)/^0) { }", "for i = 0 .. (1)/^01 { }", "for i = 0 .. (1)/^0 2 { }", "for i = 0 .. (1)/^00", "for i = 0 .. (1) / # by\n ^0",
+		"for i = (0) ^.. 1 { }", "for i = (0^/2 .. 1 { }", "for i = ^/2 .. 1 { }", "for i = 0^/2 .. 1 { }", "for i = (0)/^-2 .. 1 { }", "for i = (0)/^j .. 1 { }",
 		"for i = (^(0)/2)/2 .. 1 { }", "for i = (0)/2 ^+ 1 .. 1 { }", "for i = (0)/2^/2 .. 1 { }", "for i = ^) .. 1 { }",
 		// Conditions.
 		"if^", "if ^{ }", "if 0 ^{ }", "if 0 >= ^{ }", "if 0 >= ^1 { }", "if 0 >= ^i { }", "if 0 >= ^-0 { }", "if 0 >= 0^0 { }", "if 0 >= 0 ^", "if 0 >= 0, ^{ }", "if 0 >= 0^; { }", "if 0 ^> = 0 { }", "if 0 ^= 0 { }", "if 0 ^< 0 { }",
@@ -195,6 +197,7 @@ func TestReadErrorsOfChecks(t *testing.T) {
 		{"array a[2]; s: a[0] = 9999999;", api.ErrArg},
 		{"array a[2]; s: a[1000001] = 1;", api.ErrArg},
 		{"for i = 0 .. (1)/1001 { }", api.ErrArg},
+		{"for i = (1)/9999999 .. 1 { }", api.ErrArg},
 		{"for i = max(0, 0, 0, 0, 0, 0, 0) .. 1 { }", api.ErrLarge},
 		{"if 0 >= 0, 0 >= 0, 0 >= 0, 0 >= 0, 0 >= 0, 0 >= 0, 0 >= 0 { }", api.ErrLarge},
 		{"for i = i .. 1 { }", api.ErrRule},
